@@ -6,6 +6,7 @@ import (
 	"strings"
 
 	"portcullis/api"
+	"portcullis/shown"
 	"portcullis/skel"
 )
 
@@ -40,7 +41,7 @@ func isUnder(c api.Cond, s seen) bool {
 }
 
 func looksLike(c api.Cond, s seen) bool {
-	return s.Host.Kind == api.Domain && s.skeleton == skel.Skeleton(form(c.Host))
+	return s.Host.Kind == api.Domain && s.skeleton == skel.Skeleton(shown.Form(c.Host))
 }
 
 func isOfNet(c api.Cond, s seen) bool {
